@@ -35,7 +35,7 @@ func ask(open []candidate, l [][]float64, t *api.Tree, output int) []candidate {
 	return open
 }
 
-// stillOpen are those of which fewer than k others are certain to stand ahead. All that matter for that are open ones: ahead of a closed one there are k others, and these stand ahead of all that it stands ahead of.
+// stillOpen are those ahead of which fewer than k others are certain to stand. Only open ones matter for that: ahead of a closed one there are k others, and these stand ahead of all that it stands ahead of.
 func stillOpen(open []candidate, k int) []candidate {
 	if len(open) <= k {
 		return open
