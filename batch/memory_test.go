@@ -5,11 +5,10 @@ import (
 	"cmp"
 	"fmt"
 	"reflect"
-	"runtime"
 	"slices"
 	"strings"
-	"sync"
 	"testing"
+	"testing/synctest"
 	"unsafe"
 
 	"thicket/api"
@@ -195,23 +194,16 @@ func TestAtOneTime(t *testing.T) {
 		a, b := dense(one, 30), csv(two, names...)
 		return fmt.Sprint(one, two, three, a, b, csv("f3,f2,f1\n1,2,3\n,z,", "f1", "f2"), sparse("1 1:1\n1 2:x", 3, true))
 	}
-	want, many := ask(), runtime.NumGoroutine()
+	want := ask()
 	answers := make([]string, 8)
-	var wait sync.WaitGroup
-	for i := range answers {
-		wait.Go(func() { answers[i] = ask() })
-	}
-	wait.Wait()
+	synctest.Test(t, func(*testing.T) { // is back when each goroutine has ended, and panics if one never will
+		for i := range answers {
+			go func() { answers[i] = ask() }()
+		}
+	})
 	for _, a := range answers {
 		if a != want {
 			t.Fatal("P3: an answer is another one")
 		}
 	}
-	for range 1000 { // those of the test itself may take a moment to end
-		if runtime.NumGoroutine() <= many {
-			return
-		}
-		runtime.Gosched()
-	}
-	t.Errorf("P4: %d goroutines are left of %d", runtime.NumGoroutine(), many)
 }

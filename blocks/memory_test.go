@@ -4,10 +4,9 @@ import (
 	"bytes"
 	"cmp"
 	"reflect"
-	"runtime"
 	"slices"
-	"sync"
 	"testing"
+	"testing/synctest"
 	"unsafe"
 
 	"thicket/api"
@@ -276,24 +275,16 @@ func TestCallsAtOneTime(t *testing.T) {
 		why, _ := Check(f)
 		return answer{said(g), slices.Concat(ask2(Plan(e, 20)), ask2(Split(30, 4))), ask2(Back(f)), why, Same(f, g), said(Copy(f))}
 	}
-	want, many := ask(), runtime.NumGoroutine()
+	want := ask()
 	answers := make([]answer, 8)
-	var wait sync.WaitGroup
-	for i := range answers {
-		wait.Go(func() { answers[i] = ask() })
-	}
-	wait.Wait()
+	synctest.Test(t, func(*testing.T) { // is back when each goroutine has ended, and panics if one never will
+		for i := range answers {
+			go func() { answers[i] = ask() }()
+		}
+	})
 	for _, a := range answers {
 		if !reflect.DeepEqual(a, want) {
 			t.Fatal("P4: calls at one time answer otherwise")
 		}
 	}
-	ask()
-	for range 1000 { // those of the test itself may take a moment to end
-		if runtime.NumGoroutine() <= many {
-			return
-		}
-		runtime.Gosched()
-	}
-	t.Errorf("P4: %d goroutines are left of %d", runtime.NumGoroutine(), many)
 }

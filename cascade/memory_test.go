@@ -5,10 +5,9 @@ import (
 	"cmp"
 	"fmt"
 	"math"
-	"runtime"
 	"slices"
-	"sync"
 	"testing"
+	"testing/synctest"
 	"unsafe"
 
 	"thicket/api"
@@ -205,25 +204,17 @@ func TestAtOneTime(t *testing.T) {
 	e, l := someEnsemble(r, 9, 2), [][]float64{someVector(r), someVector(r), someVector(r)}
 	order := r.Perm(9)
 	want, _ := answers(e, l, order)
-	many := runtime.NumGoroutine()
 	said := make([]string, 8)
-	var wait sync.WaitGroup
-	for i := range said {
-		wait.Go(func() { said[i], _ = answers(e, l, order) })
-	}
-	wait.Wait()
+	synctest.Test(t, func(*testing.T) { // is back when each goroutine has ended, and panics if one never will
+		for i := range said {
+			go func() { said[i], _ = answers(e, l, order) }()
+		}
+	})
 	for _, s := range said {
 		if s != want {
 			t.Fatal("P4: calls at one time answer otherwise")
 		}
 	}
-	for range 1000 { // those of the test itself may take a moment to end
-		if runtime.NumGoroutine() <= many {
-			return
-		}
-		runtime.Gosched()
-	}
-	t.Errorf("P4: %d goroutines are left of %d", runtime.NumGoroutine(), many)
 }
 
 // Any ensembles, vectors, numbers: no call panics, each ends, and just the right ones are taken.

@@ -5,10 +5,9 @@ import (
 	"cmp"
 	"fmt"
 	"math"
-	"runtime"
 	"slices"
-	"sync"
 	"testing"
+	"testing/synctest"
 	"unsafe"
 
 	"thicket/api"
@@ -203,25 +202,17 @@ func TestAtOneTime(t *testing.T) {
 	r := source()
 	l, b := from(someEnsemble(r, 5, 2), someEnsemble(r, 5, 2)), someBox(r, 2)
 	want, _ := answers(l, b)
-	many := runtime.NumGoroutine()
 	said := make([]string, 8)
-	var wait sync.WaitGroup
-	for i := range said {
-		wait.Go(func() { said[i], _ = answers(l, b) })
-	}
-	wait.Wait()
+	synctest.Test(t, func(*testing.T) { // is back when each goroutine has ended, and panics if one never will
+		for i := range said {
+			go func() { said[i], _ = answers(l, b) }()
+		}
+	})
 	for _, s := range said {
 		if s != want {
 			t.Fatal("P4: calls at one time answer otherwise")
 		}
 	}
-	for range 1000 { // those of the test itself may take a moment to end
-		if runtime.NumGoroutine() <= many {
-			return
-		}
-		runtime.Gosched()
-	}
-	t.Errorf("P4: %d goroutines are left of %d", runtime.NumGoroutine(), many)
 }
 
 // Any trees, ensembles, boxes: no call panics, each ends, and just the right ones are taken.

@@ -5,11 +5,10 @@ import (
 	"cmp"
 	"fmt"
 	"math"
-	"runtime"
 	"slices"
 	"strings"
-	"sync"
 	"testing"
+	"testing/synctest"
 	"unsafe"
 
 	"thicket/api"
@@ -228,25 +227,17 @@ func TestAtOneTime(t *testing.T) {
 	x := someVector(r, 4)
 	back := someBack(r, x)
 	want, _ := answers(e, x, back, []int{1, 2})
-	many := runtime.NumGoroutine()
 	texts := make([]string, 8)
-	var wait sync.WaitGroup
-	for i := range texts {
-		wait.Go(func() { texts[i], _ = answers(e, x, back, []int{1, 2}) })
-	}
-	wait.Wait()
+	synctest.Test(t, func(*testing.T) { // is back when each goroutine has ended, and panics if one never will
+		for i := range texts {
+			go func() { texts[i], _ = answers(e, x, back, []int{1, 2}) }()
+		}
+	})
 	for _, s := range texts {
 		if s != want {
 			t.Fatal("P4: calls at one time answer otherwise")
 		}
 	}
-	for range 1000 { // those of the test itself may take a moment to end
-		if runtime.NumGoroutine() <= many {
-			return
-		}
-		runtime.Gosched()
-	}
-	t.Errorf("P4: %d goroutines are left of %d", runtime.NumGoroutine(), many)
 }
 
 // Any ensembles, vectors, numbers: no call panics, each ends, and just the right ones are taken.

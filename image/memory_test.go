@@ -8,8 +8,8 @@ import (
 	"math/rand/v2"
 	"runtime"
 	"slices"
-	"sync"
 	"testing"
+	"testing/synctest"
 	"unsafe"
 
 	"thicket/api"
@@ -285,23 +285,16 @@ func TestAtOneTime(t *testing.T) {
 		g, no, at := Decode(b)
 		return fmt.Sprint(c, why, said(g), no, at, Sum(b))
 	}
-	want, many := ask(), runtime.NumGoroutine()
+	want := ask()
 	answers := make([]string, 8)
-	var wait sync.WaitGroup
-	for i := range answers {
-		wait.Go(func() { answers[i] = ask() })
-	}
-	wait.Wait()
+	synctest.Test(t, func(*testing.T) { // is back when each goroutine has ended, and panics if one never will
+		for i := range answers {
+			go func() { answers[i] = ask() }()
+		}
+	})
 	for _, a := range answers {
 		if a != want {
 			t.Fatal("P4: calls at one time answer otherwise")
 		}
 	}
-	for range 1000 { // those of the test itself may take a moment to end
-		if runtime.NumGoroutine() <= many {
-			return
-		}
-		runtime.Gosched()
-	}
-	t.Errorf("P4: %d goroutines are left of %d", runtime.NumGoroutine(), many)
 }

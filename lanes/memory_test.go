@@ -6,10 +6,9 @@ import (
 	"fmt"
 	"math"
 	"reflect"
-	"runtime"
 	"slices"
-	"sync"
 	"testing"
+	"testing/synctest"
 	"unsafe"
 
 	"thicket/api"
@@ -308,23 +307,16 @@ func TestScorersAtOneTime(t *testing.T) {
 		back, _ := Unpack(g, 30, 3)
 		return fmt.Sprint(a, b, n, g, back)
 	}
-	want, many := ask(), runtime.NumGoroutine()
+	want := ask()
 	answers := make([]string, 8)
-	var wait sync.WaitGroup
-	for i := range answers {
-		wait.Go(func() { answers[i] = ask() })
-	}
-	wait.Wait()
+	synctest.Test(t, func(*testing.T) { // is back when each goroutine has ended, and panics if one never will
+		for i := range answers {
+			go func() { answers[i] = ask() }()
+		}
+	})
 	for _, a := range answers {
 		if a != want {
 			t.Fatal("P4: scorers at one time answer otherwise")
 		}
 	}
-	for range 1000 { // those of the test itself may take a moment to end
-		if runtime.NumGoroutine() <= many {
-			return
-		}
-		runtime.Gosched()
-	}
-	t.Errorf("P4: %d goroutines are left of %d", runtime.NumGoroutine(), many)
 }

@@ -7,8 +7,8 @@ import (
 	"math"
 	"runtime"
 	"slices"
-	"sync"
 	"testing"
+	"testing/synctest"
 	"unsafe"
 
 	"thicket/api"
@@ -183,28 +183,14 @@ func TestEmptyLists(t *testing.T) {
 	isLoss(t, "empty lists of categories", e, vectors(1, 2), whole(2, 2), "1")
 }
 
-// isGone waits till there are no more goroutines than before: one that has done its work may take a moment to end.
-func isGone(t *testing.T, what string, many int) {
-	t.Helper()
-	for range 10000 {
-		if runtime.NumGoroutine() <= many {
-			return
-		}
-		runtime.Gosched()
-	}
-	t.Errorf("P4: %s: %d goroutines are left of %d", what, runtime.NumGoroutine(), many)
-}
-
-// No goroutine is left behind, of calls that answer and of such as are refused.
+// No goroutine is left behind, of calls that answer and of such as are refused: a bubble is back when each one within has ended, and panics if one never will.
 func TestNoneIsLeft(t *testing.T) {
 	r := source()
-	many := runtime.NumGoroutine()
 	for range 50 {
 		l, numbers := someRows(r, 30, 20, api.MaxTarget)
-		answers(lossless(20), l, numbers, someLesson(r))
-		isGone(t, "answered", many)
-		answers(lossless(1), l, numbers[1:], api.Lesson{})
-		isGone(t, "refused", many)
+		p := someLesson(r)
+		synctest.Test(t, func(*testing.T) { answers(lossless(20), l, numbers, p) })
+		synctest.Test(t, func(*testing.T) { answers(lossless(1), l, numbers[1:], api.Lesson{}) })
 	}
 }
 
@@ -214,15 +200,14 @@ func TestAtOneTime(t *testing.T) {
 	l, numbers := someRows(r, 60, 30, 9)
 	p := api.Lesson{Trees: 5, Deep: 4, Least: 2, Num: 1, Den: 3}
 	want, _ := answers(lossless(30), l, numbers, p)
-	many := runtime.NumGoroutine()
 	for _, processors := range []int{1, 2, runtime.NumCPU()} {
 		before := runtime.GOMAXPROCS(processors)
 		texts := make([]string, 16)
-		var wait sync.WaitGroup
-		for i := range texts {
-			wait.Go(func() { texts[i], _ = answers(lossless(30), l, numbers, p) })
-		}
-		wait.Wait()
+		synctest.Test(t, func(*testing.T) {
+			for i := range texts {
+				go func() { texts[i], _ = answers(lossless(30), l, numbers, p) }()
+			}
+		})
 		runtime.GOMAXPROCS(before)
 		for _, s := range texts {
 			if s != want {
@@ -230,7 +215,6 @@ func TestAtOneTime(t *testing.T) {
 			}
 		}
 	}
-	isGone(t, "at one time", many)
 }
 
 // errorByWords is the rows' error.

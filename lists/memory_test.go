@@ -3,10 +3,9 @@ package lists
 import (
 	"math"
 	"reflect"
-	"runtime"
 	"slices"
-	"sync"
 	"testing"
+	"testing/synctest"
 	"unsafe"
 
 	"thicket/api"
@@ -229,24 +228,16 @@ func TestCallsAtOneTime(t *testing.T) {
 		a.th, a.cats = Thresholds(forest, 1), Categories(forest, 1)
 		return a
 	}
-	want, many := ask(), runtime.NumGoroutine()
+	want := ask()
 	answers := make([]answer, 8)
-	var wait sync.WaitGroup
-	for i := range answers {
-		wait.Go(func() { answers[i] = ask() })
-	}
-	wait.Wait()
+	synctest.Test(t, func(*testing.T) { // is back when each goroutine has ended, and panics if one never will
+		for i := range answers {
+			go func() { answers[i] = ask() }()
+		}
+	})
 	for _, a := range answers {
 		if !reflect.DeepEqual(a, want) {
 			t.Fatal("P4: calls at one time answer otherwise")
 		}
 	}
-	ask()
-	for range 1000 { // those of the test itself may take a moment to end
-		if runtime.NumGoroutine() <= many {
-			return
-		}
-		runtime.Gosched()
-	}
-	t.Errorf("P4: %d goroutines are left of %d", runtime.NumGoroutine(), many)
 }

@@ -3,10 +3,9 @@ package masks
 import (
 	"math"
 	"reflect"
-	"runtime"
 	"slices"
-	"sync"
 	"testing"
+	"testing/synctest"
 	"unsafe"
 
 	"thicket/api"
@@ -136,24 +135,16 @@ func TestCapacity(t *testing.T) {
 // Calls have nothing to do with one another, even at one time and over one tree, and leave no goroutine behind.
 func TestCallsAtOneTime(t *testing.T) {
 	g, x := someTree(source(), 200, 4), someVector(source(), 4)
-	want, many := asked(g, x), runtime.NumGoroutine()
+	want := asked(g, x)
 	answers := make([]said, 8)
-	var wait sync.WaitGroup
-	for i := range answers {
-		wait.Go(func() { answers[i] = asked(g, x) })
-	}
-	wait.Wait()
+	synctest.Test(t, func(*testing.T) { // is back when each goroutine has ended, and panics if one never will
+		for i := range answers {
+			go func() { answers[i] = asked(g, x) }()
+		}
+	})
 	for _, s := range answers {
 		if !reflect.DeepEqual(s, want) {
 			t.Fatal("P4: calls at one time answer otherwise")
 		}
 	}
-	asked(g, x)
-	for range 1000 { // those of the test itself may take a moment to end
-		if runtime.NumGoroutine() <= many {
-			return
-		}
-		runtime.Gosched()
-	}
-	t.Errorf("P4: %d goroutines are left of %d", runtime.NumGoroutine(), many)
 }

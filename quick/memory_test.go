@@ -5,10 +5,9 @@ import (
 	"cmp"
 	"math"
 	"reflect"
-	"runtime"
 	"slices"
-	"sync"
 	"testing"
+	"testing/synctest"
 	"unsafe"
 
 	"thicket/api"
@@ -240,26 +239,18 @@ func TestScorersAtOneTime(t *testing.T) {
 		}
 		return a
 	}
-	want, many := ask(), runtime.NumGoroutine()
+	want := ask()
 	answers := make([]answer, 8)
-	var wait sync.WaitGroup
-	for i := range answers {
-		wait.Go(func() { answers[i] = ask() })
-	}
-	wait.Wait()
+	synctest.Test(t, func(*testing.T) { // is back when each goroutine has ended, and panics if one never will
+		for i := range answers {
+			go func() { answers[i] = ask() }()
+		}
+	})
 	for _, a := range answers {
 		if !reflect.DeepEqual(a, want) {
 			t.Fatal("P4: scorers at one time answer otherwise")
 		}
 	}
-	ask()
-	for range 1000 { // those of the test itself may take a moment to end
-		if runtime.NumGoroutine() <= many {
-			return
-		}
-		runtime.Gosched()
-	}
-	t.Errorf("P4: %d goroutines are left of %d", runtime.NumGoroutine(), many)
 }
 
 // Asked by turns, two scorers of one form answer as each would alone.
